@@ -5,6 +5,7 @@ import (
 
 	"sealpress/api"
 	"sealpress/check"
+	"sealpress/keys"
 	"sealpress/wire"
 )
 
@@ -139,7 +140,7 @@ func (r *reader) takeEntry(f check.Field, b []byte) error {
 	}
 	h := r.of(f)
 	place, there := slices.BinarySearchFunc(h.values, entry, func(a, b api.Value) int {
-		return compareKeys(f.Key, keyOf(a), keyOf(b))
+		return keys.Compare(f.Key, a, b)
 	})
 	if there {
 		h.values[place] = entry

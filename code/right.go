@@ -5,6 +5,7 @@ import (
 
 	"sealpress/api"
 	"sealpress/check"
+	"sealpress/keys"
 	"sealpress/wire"
 )
 
@@ -101,7 +102,7 @@ func rightEntry(t *check.Types, f check.Field, m *api.Msg, deep int) bool {
 // keysRise says whether the keys of what stands in a map, that may be, rise.
 func keysRise(kind int, values []api.Value) bool {
 	for i := 1; i < len(values); i++ {
-		if compareKeys(kind, keyOf(values[i-1]), keyOf(values[i])) >= 0 {
+		if keys.Compare(kind, values[i-1], values[i]) >= 0 {
 			return false
 		}
 	}
